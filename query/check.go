@@ -70,12 +70,17 @@ func areAggregates(l []api.Agg) bool {
 	}
 	names := make([]string, len(l))
 	for i, a := range l {
-		if a.Kind < api.ACount || a.Kind > api.AMax || a.Over != "" && !term.IsName(a.Over) {
+		if a.Kind < api.ACount || a.Kind > api.AMax || !isOfName(a) {
 			return false
 		}
 		names[i] = a.Name
 	}
 	return areNames(names)
+}
+
+// isOfName tells whether an aggregate's Over is a name, or empty of one that counts rows.
+func isOfName(a api.Agg) bool {
+	return term.IsName(a.Over) || a.Over == "" && a.Kind == api.ACount
 }
 
 func areKeys(l []api.Key) bool {
@@ -114,15 +119,9 @@ func withoutAggregates(columns []string, l []api.Agg) ([]string, bool) {
 	return plain, len(l) == 0
 }
 
-// isPlaced tells whether an aggregate is of something in scope, and its own Name not there.
+// isPlaced tells whether an aggregate is of rows or of something in scope, and its own Name not there.
 func isPlaced(a api.Agg, inScope []string) bool {
-	if slices.Contains(inScope, a.Name) {
-		return false
-	}
-	if a.Over == "" {
-		return a.Kind == api.ACount
-	}
-	return slices.Contains(inScope, a.Over)
+	return (a.Over == "" || slices.Contains(inScope, a.Over)) && !slices.Contains(inScope, a.Name)
 }
 
 // areIn tells whether all of some names are among others.

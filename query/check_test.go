@@ -144,20 +144,31 @@ func TestCheckOfKeys(t *testing.T) {
 	checkChanges(t, grouped, api.ErrScope, order(k("y")), order(k("n"), k("w")), all(vars("n", "m"), order(k("x"))))
 }
 
-// P8.1: names that are none where just one that stands elsewhere may: refused by one of the two errors, since the chapter leaves open by which.
+// P8.1: a name of a key or an aggregate that is none is ErrForm's, whatever else is wrong; just of COUNT Over may be empty.
 func TestCheckOfOddNames(t *testing.T) {
-	for _, s := range []string{"", "9", "x ", "?x", "_x"} {
-		for _, made := range []func() api.Query{selected, grouped} {
-			for _, c := range []change{order(api.Key{Name: s}), all(aggs(api.Agg{Kind: api.ACount, Name: "n"}, api.Agg{Kind: api.AMin, Over: s, Name: "m"}), vars("n", "m"), order(), group(), is(true)),
-				all(aggs(api.Agg{Kind: api.ACount, Over: "x", Name: s}), vars("x"), order(), group("x"), is(true))} {
-				q := made()
-				c(&q)
-				if e := query.Check(q); e != api.ErrForm && e != api.ErrScope {
-					t.Errorf("%s: %d", brief(q), e)
+	bare := all(vars("n", "m"), order(), group(), is(true))
+	for _, made := range []func() api.Query{selected, grouped} {
+		for _, s := range []string{"", "9", "x ", "?x", "_x", "a23456789012345678901234567890123"} {
+			checkChanges(t, made, api.ErrForm, order(api.Key{Name: s}), all(vars("w"), order(api.Key{Name: "v"}, api.Key{Name: s, Desc: true})))
+			for kind := api.ACount; kind <= api.AMax; kind++ {
+				want := api.ErrForm
+				if s == "" && kind == api.ACount {
+					want = api.OK
+				}
+				over := aggs(api.Agg{Kind: api.ACount, Name: "n"}, api.Agg{Kind: kind, Over: s, Name: "m"})
+				checkChanges(t, made, want, all(bare, over), all(bare, over, vars("m", "n"), aggs(api.Agg{Kind: kind, Over: s, Name: "m"}, api.Agg{Kind: api.AMax, Over: "y", Name: "n"})))
+				checkChanges(t, made, api.ErrForm, all(bare, aggs(api.Agg{Kind: kind, Over: "x", Name: s}), vars("x"), group("x")))
+				if want == api.ErrForm {
+					checkChanges(t, made, want, all(bare, over, vars()), all(bare, over, vars("w")), all(bare, over, order(api.Key{Name: "v"})), all(bare, over, group("u")), all(bare, over, code(api.Op{Kind: api.OBasic})))
 				}
 			}
 		}
+		for kind := api.ACount; kind <= api.AMax; kind++ {
+			over := aggs(api.Agg{Kind: api.ACount, Name: "n"}, api.Agg{Kind: kind, Over: "w", Name: "m"})
+			checkChanges(t, made, api.ErrScope, all(bare, over), all(bare, over, vars("m")))
+		}
 	}
+	checkChanges(t, nothing, api.ErrForm, all(aggs(api.Agg{Kind: api.ASum, Name: "m"}), is(true)), all(aggs(api.Agg{Kind: api.ASum, Name: "m"}), is(true), vars("m")))
 	q := nothing()
 	q.Code, q.Group, q.Grouped = codeOfXYZ(), []string{"x"}, true
 	if e := query.Check(q); e != api.ErrForm && e != api.ErrScope {

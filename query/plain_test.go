@@ -379,7 +379,7 @@ func plainCode(l []api.Token, at int) ([]api.Op, int, api.Errno) {
 	return c, all[0].end, scope.Check(c)
 }
 
-// plainCheck tells the errors that may be answered of a query: mostly just one. Where a name is none, and so not where it may be, and the chapter does not tell which of the two counts, both may.
+// plainCheck tells the errors that may be answered of a query: mostly just one. Both may of one that has no columns and is Grouped for its Group, since the chapter leaves open whether Grouped is as it must be there.
 func plainCheck(q api.Query) []api.Errno {
 	if e := scope.Check(q.Code); e != api.OK {
 		return []api.Errno{e}
@@ -394,7 +394,7 @@ func plainCheck(q api.Query) []api.Errno {
 	case q.Ask || isRightScoped(q, inScope):
 		return []api.Errno{api.OK}
 	}
-	if hasOddNames(q) || q.Grouped && len(q.Vars) == 0 {
+	if q.Grouped && len(q.Vars) == 0 {
 		return []api.Errno{api.ErrForm, api.ErrScope}
 	}
 	return []api.Errno{api.ErrScope}
@@ -429,13 +429,13 @@ func hasNoForm(q api.Query) bool {
 		names = append(names, a.Name)
 	}
 	wrong := func(s string) bool { return !term.IsName(s) }
-	if slices.ContainsFunc(q.Vars, wrong) || slices.ContainsFunc(q.Group, wrong) {
+	if hasOddNames(q) || slices.ContainsFunc(q.Vars, wrong) || slices.ContainsFunc(q.Group, wrong) {
 		return true
 	}
 	return len(counted(q.Vars)) < len(q.Vars) || len(counted(q.Group)) < len(q.Group) || len(counted(names)) < len(names)
 }
 
-// hasOddNames tells whether an aggregate or a key has a name that is none.
+// hasOddNames tells whether an aggregate or a key has a name that is none: of COUNT alone Over may be empty.
 func hasOddNames(q api.Query) bool {
 	return slices.ContainsFunc(q.Aggs, func(a api.Agg) bool {
 		return !term.IsName(a.Name) || !term.IsName(a.Over) && (a.Over != "" || a.Kind != api.ACount)
@@ -446,7 +446,7 @@ func hasOddNames(q api.Query) bool {
 func isRightScoped(q api.Query, inScope map[string]int) bool {
 	var names []string
 	for _, a := range q.Aggs {
-		if inScope[a.Name] > 0 || a.Over == "" && a.Kind != api.ACount || a.Over != "" && inScope[a.Over] == 0 {
+		if inScope[a.Name] > 0 || a.Over != "" && inScope[a.Over] == 0 {
 			return false
 		}
 		names = append(names, a.Name)
